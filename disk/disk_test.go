@@ -66,6 +66,14 @@ func wantList(t *testing.T, d *disk.Disk, names ...string) {
 	}
 }
 
+// wantOff: without power a disk tells nothing of its files, but still how many operations there were.
+func wantOff(t *testing.T, d *disk.Disk, ops int) {
+	t.Helper()
+	want(t, "On without power", d.On(), false)
+	wantList(t, d)
+	wantCounts(t, d, 0, 0, ops)
+}
+
 // look: all that a disk tells of itself while it has power.
 func look(d *disk.Disk) string {
 	var s strings.Builder
@@ -633,10 +641,9 @@ func TestErrorsWithoutPower(t *testing.T) {
 	for _, n := range []int{-1, 0, 1} {
 		want(t, "Arm", d.Arm(n, 0), api.ErrPower)
 	}
-	want(t, "On", d.On(), false)
-	wantList(t, d, "a")
-	wantCounts(t, d, 3, 0, 3)
+	wantOff(t, d, 3)
 	d.Start()
+	wantList(t, d, "a")
 	wantRead(t, d, "a", letters('a', 20))
 	wantCounts(t, d, 3, 0, 3)
 }

@@ -3,6 +3,7 @@ package disk_test
 import (
 	"bytes"
 	"fmt"
+	"maps"
 	"slices"
 	"testing"
 
@@ -293,16 +294,16 @@ func (p *pair) step() (string, api.Errno, api.Errno) {
 
 // unlike: what the two tell otherwise, or nothing.
 func (p *pair) unlike() string {
-	if p.disk.On() == p.slow.off || p.disk.Used() != p.slow.used() || p.disk.Dirty() != len(p.slow.line) || p.disk.Ops() != p.slow.ops {
-		return fmt.Sprint("On, Used, Dirty, Ops: ", p.disk.On(), p.disk.Used(), p.disk.Dirty(), p.disk.Ops(), "; want ", !p.slow.off, p.slow.used(), len(p.slow.line), p.slow.ops)
+	names := slices.Sorted(maps.Keys(p.slow.files))
+	list, used, dirty := names, p.slow.used(), len(p.slow.line)
+	if p.slow.off {
+		list, used, dirty = nil, 0, 0
 	}
-	var names []string
-	for name := range p.slow.files {
-		names = append(names, name)
+	if p.disk.On() == p.slow.off || p.disk.Used() != used || p.disk.Dirty() != dirty || p.disk.Ops() != p.slow.ops {
+		return fmt.Sprint("On, Used, Dirty, Ops: ", p.disk.On(), p.disk.Used(), p.disk.Dirty(), p.disk.Ops(), "; want ", !p.slow.off, used, dirty, p.slow.ops)
 	}
-	slices.Sort(names)
-	if got := p.disk.List(); !slices.Equal(got, names) {
-		return fmt.Sprint("List: ", got, "; want ", names)
+	if got := p.disk.List(); !slices.Equal(got, list) {
+		return fmt.Sprint("List: ", got, "; want ", list)
 	}
 	for _, name := range names {
 		got, e := p.disk.Read(name)

@@ -37,8 +37,7 @@ func TestCrashKeep(t *testing.T) {
 	} {
 		d := example(t)
 		d.Crash(c[0])
-		want(t, "On behind a crash", d.On(), false)
-		wantCounts(t, d, 1+disk.Sectors(c[1]), 0, 4)
+		wantOff(t, d, 4)
 		d.Start()
 		want(t, "On behind Start", d.On(), true)
 		wantRead(t, d, "a", append(letters('a', 20), letters('k', 30)...)[:c[1]])
@@ -96,9 +95,9 @@ func TestCrashWithoutPower(t *testing.T) {
 		d := example(t)
 		d.Crash(1)
 		d.Crash(keep)
-		want(t, "On", d.On(), false)
-		wantCounts(t, d, 3, 0, 4)
+		wantOff(t, d, 4)
 		d.Start()
+		wantCounts(t, d, 3, 0, 4)
 		wantRead(t, d, "a", append(letters('a', 20), letters('k', 30)...)[:32])
 	}
 }
@@ -114,12 +113,94 @@ func TestCrashKeepsFiles(t *testing.T) {
 	must(t, d.Remove("b"))
 	must(t, d.Rename("c", "d"))
 	d.Crash(0)
-	wantList(t, d, "d", "z")
+	wantOff(t, d, 8)
 	d.Start()
 	wantList(t, d, "d", "z")
 	wantRead(t, d, "d", nil)
 	wantRead(t, d, "z", nil)
 	wantCounts(t, d, 2, 0, 8)
+}
+
+// several: three files, one of synced bytes alone, one with dirty ones behind them, one with none; by eight operations.
+func several(t *testing.T) *disk.Disk {
+	t.Helper()
+	d := disk.New(20)
+	must(t, d.Create("c"))
+	must(t, d.Append("c", letters('a', 40)))
+	must(t, d.Sync("c"))
+	must(t, d.Create("a"))
+	must(t, d.Append("a", letters('m', 20)))
+	must(t, d.Sync("a"))
+	must(t, d.Append("a", letters('p', 30)))
+	must(t, d.Create("b"))
+	wantList(t, d, "a", "b", "c")
+	wantCounts(t, d, 10, 3, 8)
+	return d
+}
+
+// wantSeveral: what there is of several, if one dirty sector was kept.
+func wantSeveral(t *testing.T, d *disk.Disk, ops int) {
+	t.Helper()
+	want(t, "On behind Start", d.On(), true)
+	wantList(t, d, "a", "b", "c")
+	wantCounts(t, d, 8, 0, ops)
+	wantRead(t, d, "a", append(letters('m', 20), letters('p', 30)...)[:32])
+	wantRead(t, d, "b", nil)
+	wantRead(t, d, "c", letters('a', 40))
+}
+
+// P3.1, P3.2, P3.3, R2: behind a crash a disk tells nothing of its files, synced or not; behind Start it tells all there is.
+func TestNothingToldBehindCrash(t *testing.T) {
+	d := several(t)
+	d.Crash(1)
+	wantOff(t, d, 8)
+	d.Crash(0)
+	wantOff(t, d, 8)
+	want(t, "Sync without power", d.Sync("c"), api.ErrPower)
+	wantOff(t, d, 8)
+	d.Start()
+	wantSeveral(t, d, 8)
+	d.Crash(0)
+	wantOff(t, d, 8)
+	d.Start()
+	wantSeveral(t, d, 8)
+}
+
+// P3.1, P3.2, P3.3, R2: the same behind each operation that fails, the disk being as full as it was or by an Append's bytes fuller.
+func TestNothingToldBehindFailure(t *testing.T) {
+	for what, operation := range map[string]func(d *disk.Disk) api.Errno{
+		"Create":      func(d *disk.Disk) api.Errno { return d.Create("d") },
+		"Create anew": func(d *disk.Disk) api.Errno { return d.Create("c") },
+		"Append":      func(d *disk.Disk) api.Errno { return d.Append("b", letters('s', 50)) },
+		"Sync":        func(d *disk.Disk) api.Errno { return d.Sync("a") },
+		"Rename":      func(d *disk.Disk) api.Errno { return d.Rename("c", "b") },
+		"Remove":      func(d *disk.Disk) api.Errno { return d.Remove("c") },
+	} {
+		d := several(t)
+		must(t, d.Arm(2, 1))
+		must(t, d.Sync("c"))
+		wantCounts(t, d, 10, 3, 9)
+		want(t, what+" that fails", operation(d), api.ErrPower)
+		wantOff(t, d, 10)
+		want(t, what+" without power", operation(d), api.ErrPower)
+		wantOff(t, d, 10)
+		d.Start()
+		wantSeveral(t, d, 10)
+	}
+}
+
+// P3.1, P3.3: a disk that is full while it has no power is full behind Start, too.
+func TestFullBehindStart(t *testing.T) {
+	d := disk.New(4)
+	must(t, d.Create("a"))
+	must(t, d.Append("a", letters('a', 48)))
+	d.Crash(3)
+	wantOff(t, d, 2)
+	d.Start()
+	wantCounts(t, d, 4, 0, 2)
+	want(t, "Create on a full disk", d.Create("b"), api.ErrFull)
+	want(t, "Append to a full disk", d.Append("a", letters('a', 1)), api.ErrFull)
+	wantRead(t, d, "a", letters('a', 48))
 }
 
 // P3.2, P3.4: the line's order over two files; a sector that is dirty already keeps its place.
@@ -214,7 +295,7 @@ func TestArmEachOperation(t *testing.T) {
 			want(t, "Arm", d.Arm(1, keep), api.OK)
 			want(t, "On behind Arm", d.On(), true)
 			want(t, what+" that fails", operation(d), api.ErrPower)
-			want(t, "On behind "+what, d.On(), false)
+			wantOff(t, d, 6)
 
 			wanted := fresh(t)
 			if what == "Append" {
@@ -223,10 +304,10 @@ func TestArmEachOperation(t *testing.T) {
 				must(t, wanted.Sync("a")) // changes nothing, but is one operation, too
 			}
 			wanted.Crash(keep)
-			wantList(t, d, "a", "b")
-			wantCounts(t, d, wanted.Used(), 0, 6)
 			d.Start()
 			wanted.Start()
+			wantList(t, d, "a", "b")
+			wantCounts(t, d, wanted.Used(), 0, 6)
 			want(t, fmt.Sprintf("the disk behind %s, keep %d", what, keep), look(d), look(wanted))
 			want(t, what+" behind Start", operation(d), api.OK)
 		}
